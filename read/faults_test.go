@@ -66,7 +66,22 @@ func TestStringEscapes(t *testing.T) {
 		{`"\x/\"`, 1}, {`"\x:\"`, 1}, {`"\x-1\"`, 1}, {`"\x+1\"`, 1}, {`"\x0000041\"`, 1}, {`"\x0000000\"`, 1}, {"\"\\x41\n\"", 1},
 		{`"\xd800\"`, 1}, {`"\xDFFF\"`, 1}, {`"\x110000\"`, 1}, {`"\xffffff\"`, 1},
 		{`"\n\\\"\x41\\q"`, 12}, {`"\q\w"`, 1}, {`("a" "\q"`, 6}, {`"\x41\\x4"`, 6},
-		{`"\x`, 1}, {`"\x4`, 1}, {`"\x10ffff`, 1}, {`"\q`, 1}, {`"\q\`, 1},
+		{`"\xq`, 1}, {`"\x\`, 1}, {`"\x4g`, 1}, {`"\x41 `, 1}, {`"\xd800\`, 1}, {`"\x0000410`, 1}, {`"\q`, 1}, {`"\q\`, 1},
+	})
+}
+
+// TestEndWithinNumberedEscape checks that an end within \x is no fault of its backslash, unless the six digits before the end are the number of no character.
+func TestEndWithinNumberedEscape(t *testing.T) {
+	for _, s := range []string{`\x41\`, `\x0\`, `\xe9\`, `\x00004A\`, `\x10ffff\`, `\x10FFFF\`, `\x01f600\`, `\xd8000\`, `\xffff\`, `\xfffff\`} {
+		for n := range len(s) + 1 {
+			checkBroken(t, []broken{
+				{`"` + s[:n], 1 + n}, {`"é\\` + s[:n], 4 + n}, {`"\x41\` + s[:n], 6 + n}, {`(a "b" ["` + s[:n], 9 + n}, {`(a . "` + s[:n], 6 + n},
+			})
+		}
+	}
+	checkBroken(t, []broken{
+		{`"\xd800`, 7}, {`"\xdfff`, 7}, {`"\x0d800`, 8}, // more digits may follow
+		{`"\x00d800`, 1}, {`"\x00DFFF`, 1}, {`"\x110000`, 1}, {`"\xffffff`, 1}, {`("é\xFFFFFF`, 3},
 	})
 }
 

@@ -50,10 +50,12 @@ func (p *parser) numbered(start int) int {
 		n = 16*n + digitValue(p.next())
 		digits++
 	}
-	if digits == 0 || p.peek() != '\\' || !runes.Is(n) {
+	if digits == mostDigits && !runes.Is(n) { // whatever follows, even the end of the text
 		panic(malformed(start))
 	}
-	p.at++
+	if p.next() != '\\' || digits == 0 || !runes.Is(n) {
+		panic(malformed(start))
+	}
 	return n
 }
 

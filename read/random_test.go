@@ -233,7 +233,7 @@ func TestRandomForms(t *testing.T) {
 	}
 }
 
-// TestCutForms checks that a list that is cut is never complete, and where it is said to end: at its end, or with a \ or # that needed more, or with a dot that now stands alone.
+// TestCutForms checks that a list that is cut is never complete, and where it is said to end: at its end, or with a # that needed more, a dot that now stands alone, or the \ of a modifier without its hyphen.
 func TestCutForms(t *testing.T) {
 	for seed := range 300 {
 		a := newAuthor(seed)
@@ -243,7 +243,10 @@ func TestCutForms(t *testing.T) {
 			s := string(a.text[:n])
 			d := newDesk(1000)
 			w, end, f := read.Read(d.h, d.t, s, 0)
-			early := f.At < n && (a.text[f.At] == '\\' || a.text[f.At] == '#' || f.At == n-1 && a.text[f.At] == '.')
+			early := strings.HasSuffix(s, "#") && f.At == n-1 || strings.HasSuffix(s, ".") && f.At == n-1
+			for _, x := range []string{`\C`, `\M`, `\S`} {
+				early = early || strings.HasSuffix(s, x) && f.At == n-2
+			}
 			if f.Err != api.ErrForm || f.At != n && !early || w != none || end != 0 {
 				t.Fatalf("%d, %q: %v, %d, %v", seed, s, w, end, f)
 			}
